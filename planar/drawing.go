@@ -62,7 +62,7 @@ func (d *drawing) grow() bool {
 	return false
 }
 
-// next is a part that fits into the fewest faces, or into more than one if all do.
+// next is a part that fits into the fewest faces: into one, if there is such a part; else any. false: nothing is left.
 func (d *drawing) next() (int, bool) {
 	for len(d.few) > 0 {
 		p := d.few[len(d.few)-1]
